@@ -21,6 +21,17 @@ func allProblems(coins ...int) []impl.Problem {
 	return list
 }
 
+// problem is that of so many coins, heavy with the kind +, light with -, or none with 0.
+func problem(coins int, kinds string) impl.Problem {
+	p := impl.Problem{Coins: coins}
+	for _, kind := range kinds {
+		p.Heavy = p.Heavy || kind == '+'
+		p.Light = p.Light || kind == '-'
+		p.None = p.None || kind == '0'
+	}
+	return p
+}
+
 // someCoins returns all numbers of coins near the valid ones, and some far from them.
 func someCoins() []int {
 	list := []int{math.MinInt, math.MinInt + 1, -1000, math.MaxInt, math.MaxInt - 1, 1 << 32, 1<<32 + 5, -(1 << 32) + 5, 1000}

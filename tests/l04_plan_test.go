@@ -656,15 +656,6 @@ func TestP9PlanDepth(t *testing.T) {
 }
 
 func TestP9SolvesForNamed(t *testing.T) {
-	problem := func(coins int, kinds string) impl.Problem {
-		p := impl.Problem{Coins: coins}
-		for _, kind := range kinds {
-			p.Heavy = p.Heavy || kind == '+'
-			p.Light = p.Light || kind == '-'
-			p.None = p.None || kind == '0'
-		}
-		return p
-	}
 	named := []struct {
 		p             impl.Problem
 		plan          []impl.Node
