@@ -619,12 +619,9 @@ func TestP9DisjunctArguments(t *testing.T) {
 	}
 }
 
-// P9: no two results share memory.
-func TestP9DisjunctResults(t *testing.T) {
-	made := []func(n int) ([]int, bool){impl.BitPools, impl.SinglePools,
-		func(n int) ([]int, bool) { return impl.Weakness(n, singles(n)[1:], 1) },
-		func(n int) ([]int, bool) { return impl.Weakness(n, nil, 3) },
-		func(n int) ([]int, bool) { return impl.Weakness(n, bitPairs(n), 2) }}
+// checkApart makes all lists twice, for all numbers of items, and overwrites one after the other.
+func checkApart(t *testing.T, made []func(n int) ([]int, bool)) {
+	t.Helper()
 	for n := 1; n <= 10; n++ {
 		var lists, firsts [][]int
 		for _, f := range slices.Repeat(made, 2) {
@@ -646,6 +643,15 @@ func TestP9DisjunctResults(t *testing.T) {
 			}
 		}
 	}
+}
+
+// P9: no two results share memory.
+func TestP9DisjunctResults(t *testing.T) {
+	made := []func(n int) ([]int, bool){impl.BitPools, impl.SinglePools,
+		func(n int) ([]int, bool) { return impl.Weakness(n, singles(n)[1:], 1) },
+		func(n int) ([]int, bool) { return impl.Weakness(n, nil, 3) },
+		func(n int) ([]int, bool) { return impl.Weakness(n, bitPairs(n), 2) }}
+	checkApart(t, made)
 }
 
 // P9: a nil slice and an empty one are the same.
